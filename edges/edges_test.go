@@ -80,7 +80,7 @@ func TestReader(t *testing.T) {
 
 // P18.3: texts and graphs of edges.
 func TestShow(t *testing.T) {
-	if s := Show(list(1, 2, 0, 70000, 1<<32 - 1, 10)); s != "1 2\n0 70000\n4294967295 10\n" || Show(nil) != "" {
+	if s := Show(list(1, 2, 0, 70000, 1<<32-1, 10)); s != "1 2\n0 70000\n4294967295 10\n" || Show(nil) != "" {
 		t.Errorf("%q", s)
 	}
 	if g, e := Group(3, list(1, 2, 1, 0, 1, 2)); e != 0 || !same(g, api.Graph{{}, {0, 2}, {}}) {
