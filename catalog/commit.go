@@ -293,7 +293,7 @@ func (s *Store) settle(x moves, m image) api.Errno {
 func (s *Store) restore() api.Errno {
 	var l []tree.Page
 	for _, no := range slices.Sorted(maps.Keys(s.pages)) {
-		l = append(l, tree.Page{No: no, Text: s.pages[no]})
+		l = append(l, s.pages[no])
 	}
 	t, e := tree.Load(s.lay.size, s.root, l)
 	if e == api.OK {
