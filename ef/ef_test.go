@@ -238,3 +238,58 @@ func TestFewBytes(t *testing.T) {
 		t.Errorf("%d, %v: %d bytes", v, e, src.bytes)
 	}
 }
+
+// digits are a number's bits.
+func digits(v uint64, n int) string {
+	s := ""
+	for i := n - 1; i >= 0; i-- {
+		s += string(rune('0' + v>>i&1))
+	}
+	return s
+}
+
+// packed is the text of bits, filled.
+func packed(bits string) string {
+	for len(bits)%8 > 0 {
+		bits += "0"
+	}
+	var b []byte
+	for i := 0; i < len(bits); i += 8 {
+		v := byte(0)
+		for _, c := range bits[i : i+8] {
+			v = v<<1 | byte(c-'0')
+		}
+		b = append(b, v)
+	}
+	return string(b)
+}
+
+// P12.1: the bytes, bit by bit as the words tell them.
+func TestBytes(t *testing.T) {
+	rnd := rand.New(rand.NewSource(2))
+	for range 300 {
+		l := some(rnd)
+		n, u, b, h := uint64(len(l)), uint64(0), 0, uint64(0)
+		if n > 0 {
+			u = l[n-1] + 1
+			for n<<(b+1) <= u {
+				b++
+			}
+			h = (u-1)>>b + n
+		}
+		low, samples := "", ""
+		high := []byte(strings.Repeat("0", int(h)))
+		for i, v := range l {
+			low += digits(v&(1<<b-1), b)
+			at := v>>b + uint64(i)
+			high[at] = '1'
+			if i%64 == 0 {
+				samples += digits(at, 32)
+			}
+		}
+		want := packed(digits(n, 32)+digits(u, 64)) + packed(low) + packed(string(high)) + packed(samples)
+		if s, e := Build(l); s != want || e != 0 {
+			t.Fatalf("%v: %x, not %x", l, s, want)
+		}
+	}
+}

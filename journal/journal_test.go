@@ -303,3 +303,99 @@ func TestAnew(t *testing.T) {
 		t.Error(n, e)
 	}
 }
+
+// P5.3, P5.4: a transaction that just fits needs no checkpoint; a descriptor has room for so many blocks.
+func TestFits(t *testing.T) {
+	d := device(t, 200, 1)
+	j := opened(t, d, 3, 8)
+	for i, used := range []int{3, 6, 3} {
+		if j.Commit([]Write{{11, fill(d, "a")}}) != 0 || j.Used() != used || j.Number() != uint64(i+2) {
+			t.Errorf("commit %d: %d used", i, j.Used())
+		}
+	}
+	if _, n, e := Open(d, 3, 8); n != 1 || e != 0 {
+		t.Error(n, e)
+	}
+	j = opened(t, d, 3, 8)
+	j.Commit([]Write{{11, fill(d, "a")}})
+	j.Commit([]Write{{11, fill(d, "b")}})
+	if _, n, e := Open(d, 3, 8); n != 2 || e != 0 {
+		t.Error("a ring that is full", n, e)
+	}
+	if j = opened(t, d, 0, 126); j.Most() != 122 {
+		t.Error(j.Most())
+	}
+	j = opened(t, d, 0, 130)
+	var l []Write
+	for i := range 70 {
+		l = append(l, Write{130 + i, fill(d, "WJx")})
+	}
+	if j.Most() != 123 || j.Commit(l) != 0 || j.Commit(l) != 0 {
+		t.Error("many blocks")
+	}
+	for i := range 70 {
+		d.Corrupt(130+i, 0, "gone")
+	}
+	if _, n, e := Open(d, 0, 130); n != 1 || e != 0 {
+		t.Error(n, e)
+	}
+	for i, text := range d.Image()[130:] {
+		if text != fill(d, "WJx") {
+			t.Error("block", i)
+		}
+	}
+}
+
+// P5.2: what is no transaction: a descriptor that is not so, to its last byte; blocks that none may write.
+func TestNoTransaction(t *testing.T) {
+	for i, x := range []struct {
+		at   int
+		text string
+	}{{0, "WJX1"}, {4, "\x01"}, {11, "\x02"}, {15, "\x00"}, {15, "\x02"}, {12, "\xff"}, {16, "\x80"}, {19, "\x01"}, {20, "\x77"}, {24, "\x01"}, {511, "\x01"}} {
+		d := device(t, 20, 1)
+		j := opened(t, d, 0, 8)
+		j.Commit([]Write{{13, fill(d, "a")}})
+		d.Corrupt(2, x.at, x.text)
+		if _, n, e := Open(d, 0, 8); n != 0 || e != 0 {
+			t.Errorf("descriptor %d: %d, %v", i, n, e)
+		}
+	}
+	for i, blocks := range [][]int{{13, 13}, {7, 13}, {20, 13}, {1 << 30, 13}, {13, 14}} {
+		d := device(t, 20, 1)
+		j := opened(t, d, 0, 8)
+		j.Commit([]Write{{13, fill(d, "a")}, {14, fill(d, "b")}})
+		s := "WJD1" + num.Text(1, 8) + num.Text(2, 4) + num.Text(uint64(blocks[0]), 4) + num.Text(uint64(blocks[1]), 4)
+		s += num.Text(uint64(sums.Crc(s)), 4)
+		d.Corrupt(2, 0, s)
+		img := d.Image()
+		d.Corrupt(5, 12, num.Text(uint64(sums.Crc(img[2]+img[3]+img[4])), 4))
+		want := 0
+		if i == 4 {
+			want = 1
+		}
+		if _, n, e := Open(d, 0, 8); n != want || e != 0 {
+			t.Errorf("blocks %v: %d, %v", blocks, n, e)
+		}
+	}
+}
+
+// P5.2: the head is the one with the greater own number, whose tail is in the ring.
+func TestHeads(t *testing.T) {
+	head := func(own, tail, number uint64) string {
+		s := "WJH1" + num.Text(own, 8) + num.Text(tail, 4) + num.Text(number, 8)
+		return s + num.Text(uint64(sums.Crc(s)), 4)
+	}
+	for i, x := range []struct {
+		a, b string
+		want uint64
+	}{{head(1, 0, 5), head(2, 0, 9), 9}, {head(3, 0, 5), head(2, 0, 9), 5}, {head(1, 5, 5), head(2, 6, 9), 5}, {head(1, 6, 5), head(2, 6, 9), 0}, {head(1, 0, 5), "WJH2" + head(2, 0, 9)[4:], 5}, {head(2, 0, 5), head(2, 0, 9), 5}} {
+		d := device(t, 20, 1)
+		Format(d, 0, 8)
+		d.Corrupt(0, 0, x.a)
+		d.Corrupt(1, 0, x.b)
+		j, _, e := Open(d, 0, 8)
+		if j.Number() != x.want || (e == api.ErrCorrupt) != (x.want == 0) {
+			t.Errorf("heads %d: %d, %v", i, j.Number(), e)
+		}
+	}
+}

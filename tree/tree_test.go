@@ -238,6 +238,7 @@ func TestModel(t *testing.T) {
 			if l, _ := y.Range("", 1<<30); !slices.Equal(l, entries(model, "", 1<<30)) {
 				t.Fatal("other entries")
 			}
+			full(t, size, x)
 			for _, p := range x.Changed() {
 				if slices.Contains(x.Freed(), p.No) || slices.Contains(x.Given(), p.No) {
 					t.Fatal("changed, and freed or given")
@@ -259,6 +260,32 @@ func TestModel(t *testing.T) {
 		disk.store(x)
 		if x.Root() != 0 || len(x.Pages())+len(disk) != 0 {
 			t.Fatal("pages without keys")
+		}
+	}
+}
+
+// full says that pages are full enough, and not too full.
+func full(t *testing.T, size int, x *Tree) {
+	t.Helper()
+	order := 1 + (size-7)/69
+	for _, p := range x.Pages() {
+		n, e := page.Decode(p.Text)
+		if e != 0 {
+			t.Fatal(e)
+		}
+		bytes := 0
+		for i, k := range n.Keys {
+			bytes += len(k)
+			if n.Leaf {
+				bytes += 3 + len(n.Vals[i])
+			}
+		}
+		switch {
+		case len(n.Keys) == 0:
+			t.Fatal("a page without keys")
+		case p.No == x.Root():
+		case n.Leaf && 4*bytes < size-3, !n.Leaf && 2*len(n.Kids) < order:
+			t.Fatalf("a page of %d bytes, %d kids", bytes, len(n.Kids))
 		}
 	}
 }

@@ -6,10 +6,12 @@ import (
 	"testing"
 
 	"wattle/api"
+	"wattle/bitio"
 	"wattle/blockdev"
 	"wattle/bv"
 	"wattle/ef"
 	"wattle/extent"
+	"wattle/list"
 	"wattle/pack"
 	"wattle/pool"
 	"wattle/stream"
@@ -261,5 +263,70 @@ func TestDegree(t *testing.T) {
 	_, places, _ := bv.Encode(g, bv.Usual())
 	if d, e := x.Degree(0); d != len(g[0]) || e != 0 || whole-src.bytes < int(places[1])/8-8 {
 		t.Errorf("%d, %v: %d bytes, and %d for all", d, e, src.bytes, whole)
+	}
+}
+
+// foreign is a file whose lists are packed by the references that are told; over bits stand behind each list.
+func foreign(t *testing.T, g api.Graph, refs []int, over int, p bv.Params) string {
+	t.Helper()
+	w := bitio.New()
+	var places []uint64
+	m := 0
+	for v, l := range g {
+		places = append(places, uint64(w.Len()))
+		var by []uint32
+		if r := refs[v]; r > 0 && r <= v {
+			by = g[v-r]
+		}
+		if e := list.Encode(w, v, l, by, refs[v], p.List()); e != 0 {
+			t.Fatal(e)
+		}
+		w.Put(0, over)
+		m += len(l)
+	}
+	places = append(places, uint64(w.Len()))
+	bits, _ := w.Text()
+	head, e := pack.Head{N: len(g), M: m, Params: p, Bits: w.Len()}.Text()
+	index, _ := ef.Build(places)
+	if e != 0 {
+		t.Fatal(e)
+	}
+	return head + bits + index
+}
+
+// The list of a vertex as the bytes tell it: which references may be.
+func TestForeign(t *testing.T) {
+	p := bv.Params{Window: 5, Depth: 2, Interval: 0, Zeta: 3, Cap: 3}
+	a, long := []uint32{1, 2, 4}, []uint32{0, 1, 2, 3}
+	for i, x := range []struct {
+		g    api.Graph
+		refs []int
+		over int
+		told []bool
+	}{
+		{api.Graph{a, a, a, a, {}}, []int{0, 1, 1, 1, 0}, 0, []bool{true, true, true, false, true}}, // the last one is behind three others
+		{api.Graph{a, a, a, a, {}}, []int{0, 1, 1, 3, 0}, 0, []bool{true, true, true, true, true}},
+		{api.Graph{a, a, {}, {}, {}}, []int{1, 2, 0, 0, 0}, 0, []bool{false, false, true, true, true}},    // ahead of the first
+		{api.Graph{{}, a, {}, {}, {}}, []int{0, 1, 0, 0, 0}, 0, []bool{true, false, true, true, true}},    // by an empty one
+		{api.Graph{long, a, {}, {}, {}}, []int{0, 1, 0, 0, 0}, 0, []bool{true, false, true, true, true}},  // by a long one
+		{api.Graph{a, long, {}, {}, {}}, []int{0, 1, 0, 0, 0}, 0, []bool{true, false, true, true, true}},  // a long one by another
+		{api.Graph{a, a, {}, {}, {}}, []int{0, 1, 0, 0, 0}, 1, []bool{false, false, false, false, false}}, // something stands behind them
+		{api.Graph{a, {9}, {}, {}, {}}, []int{0, 0, 0, 0, 0}, 0, []bool{true, false, true, true, true}},   // no vertex
+	} {
+		g := opened(t, foreign(t, x.g, x.refs, x.over, p))
+		all := true
+		for v, told := range x.told {
+			l, e := g.List(v)
+			if told && (e != 0 || !slices.Equal(l, x.g[v])) || !told && (e != api.ErrForm || len(l) > 0) {
+				t.Errorf("graph %d, vertex %d: %v, %v", i, v, l, e)
+			}
+			all = all && told
+			if d, e := g.Degree(v); d != len(x.g[v]) || e != 0 {
+				t.Errorf("graph %d, vertex %d: degree %d, %v", i, v, d, e)
+			}
+		}
+		if (g.Check() == 0) != all {
+			t.Errorf("graph %d: %v", i, g.Check())
+		}
 	}
 }
