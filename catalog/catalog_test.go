@@ -510,3 +510,75 @@ func TestFormatCrashes(t *testing.T) {
 		}
 	}
 }
+
+// P29.5: a block that was a page, and is an entry's now, is not written again as a page, when the device comes up.
+func TestPageBecomesData(t *testing.T) {
+	for names := 8; names < 30; names++ {
+		s := fresh(t, 64)
+		var l []Entry
+		for i := range names {
+			l = append(l, Entry{1, string(rune('a'+i)) + strings.Repeat("n", 50), ext(0, 0), strings.Repeat("d", 40)})
+			if e := s.Commit(put(l[i])); e != 0 {
+				t.Fatal(e)
+			}
+		}
+		before := s.Space().Map().Twin()
+		for _, x := range l[2:] {
+			if e := s.Commit(gone(x.key())); e != 0 {
+				t.Fatal(e)
+			}
+		}
+		n := 0
+		for no := s.lay.dataAt(); no < s.lay.blocks; no++ {
+			if !before.Taken(no) || s.Space().Map().Taken(no) {
+				continue
+			}
+			if e := s.Space().Map().Take(block(no)); e != 0 {
+				t.Fatal(e)
+			}
+			s.Space().Write(no, strings.Repeat("q", 512))
+			if e := s.Commit(put(Entry{2, string(rune('A' + n)), block(no), ""})); e != 0 {
+				t.Fatal(e)
+			}
+			n++
+		}
+		s.d.Pull(blockdev.Crash{Torn: -1})
+		s.d.Restart()
+		s = mounted(t, s.d, 4)
+		all, _ := s.List(2)
+		for _, x := range all {
+			if text, _ := s.Space().Read(x.X.Start); text != strings.Repeat("q", 512) {
+				t.Fatalf("%d entries: the block %d is a page again", names, x.X.Start)
+			}
+		}
+		if len(all) != n || n == 0 || s.Check() != 0 {
+			t.Fatal(n, len(all))
+		}
+	}
+}
+
+// What the cache had of a block is forgotten, when that becomes a page, or is none any more.
+func TestCache(t *testing.T) {
+	s := fresh(t, 64)
+	look := func() {
+		t.Helper()
+		img := s.d.Image()
+		for no := s.lay.dataAt(); no < s.lay.blocks; no++ {
+			if text, e := s.Space().Read(no); text != img[no] || e != 0 {
+				t.Fatalf("the block %d", no)
+			}
+		}
+	}
+	s, _, _ = Mount(s.d, 64)
+	look()
+	var l []Entry
+	for i := range 12 {
+		l = append(l, Entry{1, string(rune('a'+i)) + strings.Repeat("n", 50), ext(0, 0), strings.Repeat("d", 40)})
+		s.Commit(put(l[i]))
+		look()
+	}
+	for _, x := range l {
+		s.Commit(gone(x.key()))
+		look()
+	}
+}

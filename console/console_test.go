@@ -27,7 +27,7 @@ func TestExamples(t *testing.T) {
 		{"check", "error 2"}, {"format 100 1 24", "ok"}, {"check", "error 2"}, {"mount 8 2 4096", "ok"},
 		{"import g 3 0%201%0a1%202", "ok 3 2"}, {"import g 3 -", "error 7"}, {"import h 3 0%203", "error 15 1"},
 		{"list", "ok 1", "graph g 3 2"}, {"next g 0", "ok 1"}, {"next g 3", "error 1"}, {"next g 2", "ok"},
-		{"submit 1 g far 0 0 0 0", "ok 1"}, {"run 1 0", "ok 1 0 0"}, {"run 1 9", "ok 2 3 0"}, {"status 1", "ok 2 3 0 1 g far 0 0 0 0"}, {"fetch far 0 3", "ok 0 1 2"}, {"run 1 9", "error 16"}, {"run 1 -1", "ok 2 3 0"}, {"run 9 0", "error 6"},
+		{"submit 1 g far 0 0 0 0", "ok 1"}, {"run 1 0", "ok 1 0 0"}, {"run 1 2", "ok 1 2 0"}, {"run 1 9", "ok 2 3 0"}, {"status 1", "ok 2 3 0 1 g far 0 0 0 0"}, {"fetch far 0 3", "ok 0 1 2"}, {"run 1 9", "error 16"}, {"run 1 -1", "ok 2 3 0"}, {"run 9 0", "error 6"},
 		{"pull -1 0", "ok"}, {"check", "error 8"}, {"restart", "ok"}, {"restart", "error 5"}, {"mount 8 2 4096", "ok"}, {"list", "ok 2", "graph g 3 2", "result far 3"},
 		{"submit 6 g b - 4 2 -1", "error 4"}, {"submit 6 g b -3 4 2 -1", "ok 2"}, {"status 2", "ok 1 0 0 6 g b -3 4 2 18446744073709551615"}, {"submit -1 g c 0 0 0 0", "error 11"}, {"submit 257 g c 0 0 0 0", "error 11"},
 		{"step 2", "ok 1 1 0"}, {"jobs", "ok 1 2"}, {"cancel 2", "ok"}, {"cancel 2", "error 16"}, {"forget 2", "ok"}, {"forget 1", "ok"}, {"jobs", "ok"},

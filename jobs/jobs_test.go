@@ -138,36 +138,51 @@ func TestRefused(t *testing.T) {
 			t.Errorf("Submit %d: %v", i, e)
 		}
 	}
+	imported(t, s, long[:63], path())
+	y := opened(t, s, MaxEvery)
+	if id, e := y.Submit(Spec{Kind: Ball, Graph: long[:63], Result: long[:63], P: 16, Rounds: MaxRounds}); id != 1 || e != 0 {
+		t.Error("the greatest numbers, the longest names", e)
+	}
+	if z, e := opened(t, s, 1).Status(1); z.Graph != long[:63] || z.Result != long[:63] || z.P != 16 || e != 0 {
+		t.Error("the longest names", z, e)
+	}
+	if y.Cancel(1) != 0 || y.Forget(1) != 0 {
+		t.Error("Cancel")
+	}
+	x = opened(t, s, 1)
+	if id, e := x.Submit(Spec{Kind: Ball, Graph: "g", Result: "r", P: 4, Rounds: 1}); id != 2 || e != 0 || x.Cancel(2) != 0 || x.Forget(2) != 0 {
+		t.Error("the least numbers", e)
+	}
 	spec := Spec{Kind: Core, Graph: "g", Result: "r", Root: -7, P: 99, Rounds: -1 << 63, Seed: 1<<64 - 1}
 	id, e := x.Submit(spec)
-	if y, f := x.Status(id); e != 0 || f != 0 || y != (Info{Id: 1, Spec: spec, State: Pending}) {
+	if y, f := x.Status(id); e != 0 || f != 0 || y != (Info{Id: 3, Spec: spec, State: Pending}) {
 		t.Error("what is not needed is told back", y, e)
 	}
 	if _, e := x.Submit(Spec{Kind: Bfs, Graph: "g", Result: "r", Root: 9}); e != api.ErrThere {
 		t.Error("a pending job has the name", e)
 	}
-	if x.Forget(1) != api.ErrState || !x.Uses("g") || x.Uses("r") || x.Cancel(1) != 0 || x.Uses("g") || x.Cancel(1) != api.ErrState {
+	if x.Forget(3) != api.ErrState || !x.Uses("g") || x.Uses("r") || x.Cancel(3) != 0 || x.Uses("g") || x.Cancel(3) != api.ErrState {
 		t.Error("Cancel")
 	}
-	if _, e := x.Step(1); e != api.ErrState {
+	if _, e := x.Step(3); e != api.ErrState {
 		t.Error("a step of a cancelled job")
 	}
-	for _, id := range []int{0, 2, -1} {
+	for _, id := range []int{0, 4, -1} {
 		_, e := x.Step(id)
 		if _, f := x.Status(id); e != api.ErrNone || f != api.ErrNone || x.Cancel(id) != api.ErrNone || x.Forget(id) != api.ErrNone {
 			t.Errorf("job %d", id)
 		}
 	}
-	for i := 2; ; i++ {
+	for i := 4; ; i++ {
 		id, e := x.Submit(Spec{Kind: Tri, Graph: "g", Result: "r" + string(rune('0'+i))})
-		if e == api.ErrFull && i == MaxJobs+1 {
+		if e == api.ErrFull && i == MaxJobs+3 {
 			break
 		}
 		if e != 0 || id != i {
 			t.Fatal(i, id, e)
 		}
 	}
-	if x.Forget(1) != 0 {
+	if x.Forget(3) != 0 {
 		t.Error("Forget")
 	}
 	if _, e := x.Submit(Spec{Kind: Tri, Graph: "g", Result: "s"}); e != 0 {
