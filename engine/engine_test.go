@@ -284,3 +284,42 @@ func TestDead(t *testing.T) {
 	d.Restart()
 	dead()
 }
+
+// A graph without vertices, and one of a vertex that leads to itself: each job ends.
+func TestSmall(t *testing.T) {
+	g := mounted(t, device(t, 200), Options{4, 1, 4096})
+	imports(t, g, "none", 0, "# nothing\n\n", Imported{}, 0)
+	imports(t, g, "one", 1, "0 0\n0 0", Imported{1, 1, 0}, 0)
+	imports(t, g, "bad", 0, "0 0", Imported{Line: 1}, api.ErrEdge)
+	for kind := uint8(jobs.Bfs); kind <= jobs.Ball; kind++ {
+		name := string(rune('a' + kind))
+		_, e := g.Submit(jobs.Spec{Kind: kind, Graph: "none", Result: name + "0", P: 4, Rounds: 3})
+		if (e == api.ErrArg) != (kind == jobs.Bfs || kind == jobs.Dom) {
+			t.Errorf("kind %d: %v", kind, e)
+		}
+		if _, e := g.Submit(jobs.Spec{Kind: kind, Graph: "one", Result: name + "1", P: 4, Rounds: 3}); e != 0 {
+			t.Errorf("kind %d: %v", kind, e)
+		}
+	}
+	ids, _ := g.Jobs()
+	for _, id := range ids {
+		if x := toEnd(t, g, id); x.State != jobs.Done {
+			t.Error(x)
+		}
+	}
+	l, e := g.List()
+	if e != 0 || len(l) != 12 {
+		t.Error(l, e)
+	}
+	for _, x := range l {
+		if x.Result && x.Name[1] == '1' {
+			fetches(t, g, x.Name, 0)
+		}
+		if x.Result && x.Name[1] == '0' && x.N != 0 && x.Name[0] != 'a'+jobs.Tri {
+			t.Error(x)
+		}
+	}
+	if g.Check() != 0 {
+		t.Error("Check")
+	}
+}
