@@ -2,6 +2,7 @@ package runs
 
 import (
 	"math/rand"
+	"slices"
 	"strings"
 	"testing"
 
@@ -127,5 +128,74 @@ func TestBallRegisters(t *testing.T) {
 		if s.Stats().Most > 0 {
 			t.Fatal("pinned")
 		}
+	}
+}
+
+// P28.1, P28.2: a text that tells as many steps as there are rounds, and that it is not done: it ends where no register becomes another one.
+func TestBallBehindLast(t *testing.T) {
+	g := walked(api.Graph{nil, {0}, {1}}, bv.Usual())
+	for rounds := 1; rounds < 4; rounds++ {
+		r := ballFrom(t, space(20, 2), g, 4, rounds, 0)
+		text, _ := r.Save()
+		if e := r.Load(num.Text(uint64(rounds), 4) + text[4:]); e != 0 {
+			t.Fatal(e)
+		}
+		for i, want := range []bool{false, false, true} {
+			if done, e := r.Step(); done != want || e != 0 || r.Steps() != rounds+i+1 {
+				t.Errorf("step %d behind %d rounds: %v, %v", i+1, rounds, done, e)
+			}
+			if text, e := r.Save(); e != 0 || r.Load(text) != api.ErrForm {
+				t.Error("a text of more steps than rounds")
+			}
+		}
+		if _, e := r.Step(); e != api.ErrDone {
+			t.Error("behind the end", e)
+		}
+	}
+}
+
+// anyBalls is balls that no run told, of at most so many rounds.
+func anyBalls(rnd *rand.Rand, n, p, rounds int) balls {
+	b := balls{made: rnd.Intn(rounds + 1)}
+	for range n {
+		regs := make([]byte, 1<<p)
+		for range rnd.Intn(6) {
+			regs[rnd.Intn(len(regs))] = byte(rnd.Intn(66 - p))
+		}
+		b.regs = append(b.regs, string(regs))
+		b.sums = append(b.sums, rnd.Uint64()>>rnd.Intn(65)|uint64(rnd.Intn(2))<<63)
+	}
+	return b
+}
+
+// P28.1, P28.2: from any text on, each step is the chapter's.
+func TestBallAnyText(t *testing.T) {
+	rnd := rand.New(rand.NewSource(13))
+	behind := 0
+	for range 300 {
+		n, p, rounds := 1+rnd.Intn(12), 4+rnd.Intn(3), 1+rnd.Intn(5)
+		g := some(rnd, n, false)
+		r := ballFrom(t, space(200, 1+rnd.Intn(4)), walked(g, bv.Usual()), p, rounds, rnd.Uint64())
+		want := anyBalls(rnd, n, p, rounds)
+		if e := r.Load(want.text()); e != 0 {
+			t.Fatal(e)
+		}
+		for !want.done {
+			want = want.grown(g, rounds)
+			done, e := r.Step()
+			text, f := r.Save()
+			if done != want.done || e != 0 || f != 0 || text != want.text() || r.Steps() != want.made {
+				t.Fatalf("step %d of %d rounds: %v, %v; %x", want.made, rounds, done, e, text)
+			}
+		}
+		if want.made > rounds+1 {
+			behind++
+		}
+		if l := values(t, r); !slices.Equal(l, want.sums) {
+			t.Fatal(l)
+		}
+	}
+	if behind == 0 {
+		t.Fatal("no run went on behind its rounds")
 	}
 }

@@ -1,11 +1,14 @@
 package runs
 
 import (
+	"math/big"
 	"slices"
+	"strings"
 
 	"wattle/api"
 	"wattle/bfs"
 	"wattle/dom"
+	"wattle/num"
 	"wattle/sketch"
 )
 
@@ -244,6 +247,52 @@ func ballOf(g api.Graph, v, radius, p int, seed uint64) string {
 		}
 	}
 	return s
+}
+
+// balls is how far a run of balls is, as lists.
+type balls struct {
+	regs []string
+	sums []uint64
+	made int
+	done bool
+}
+
+// text is what Save tells of it.
+func (b balls) text() string {
+	over := uint64(0)
+	if b.done {
+		over = 1
+	}
+	s := num.Text(uint64(b.made), 4) + num.Text(over, 1) + strings.Join(b.regs, "")
+	for _, x := range b.sums {
+		s += num.Text(x, 8)
+	}
+	return s
+}
+
+// grown is the balls behind a step more of a run of so many rounds.
+func (b balls) grown(g api.Graph, rounds int) balls {
+	t := b.made + 1
+	n := balls{made: t, done: true}
+	for v, regs := range b.regs {
+		for _, w := range g[v] {
+			regs, _ = sketch.Union(regs, b.regs[w])
+		}
+		n.done = n.done && regs == b.regs[v]
+		x, _ := sketch.Estimate(b.regs[v])
+		y, _ := sketch.Estimate(regs)
+		more := new(big.Int)
+		if y > x {
+			more.SetUint64(min(y-x, 1<<31-1)).Lsh(more, 32).Div(more, big.NewInt(int64(t)))
+		}
+		more.Add(more, new(big.Int).SetUint64(b.sums[v]))
+		if !more.IsUint64() {
+			more.SetUint64(1<<64 - 1)
+		}
+		n.regs, n.sums = append(n.regs, regs), append(n.sums, more.Uint64())
+	}
+	n.done = n.done || t == rounds
+	return n
 }
 
 // growth is the sums, and the steps, of balls of 2^5 registers, at most 9 rounds, and the seed 77.
